@@ -55,6 +55,15 @@ const (
 	errZero
 	errRange
 	errLong
+	errKey
+	errCall
+	errIndex
+	errDepth
+	errCells
+	errTask
+	errLoop
+	errArgs
+	errStep = 14
 )
 
 // What compare answers beside -1, 0 and 1.
@@ -69,7 +78,7 @@ type value struct {
 	num  int64
 	flt  float64
 	str  string
-	ref  int
+	ref  thing
 }
 
 // valued is a value, or the code of why there is none.
@@ -103,6 +112,17 @@ func (v value) float() float64 {
 		return float64(v.num)
 	}
 	return v.flt
+}
+
+// key is what a value is as a key of a table: whole floats are keys as ints.
+func key(v value) valued {
+	switch {
+	case v.kind == kNil, math.IsNaN(v.flt):
+		return failed(errKey)
+	case v.kind == kFlt && v.flt >= -1<<63 && v.flt < 1<<63 && v.flt == math.Floor(v.flt):
+		return given(intValue(int64(v.flt)))
+	}
+	return given(v)
 }
 
 func truth(v value) bool { return v.kind != kNil && !(v.kind == kBool && v.num == 0) }
