@@ -106,13 +106,12 @@ func (c compiler) let(n node) stat {
 	}
 }
 
-// target is what a set writes to: a variable, or a place in a table.
+// target is what a set writes to, a variable or a place in a table, and the value that it is to get.
 type target struct {
 	box   *box
 	of, k value
+	value value
 }
-
-func (t target) held() []value { return []value{t.of, t.k} }
 
 func (c compiler) target(at int) func(f *frame) (target, error) {
 	n := c.nodes[at]
@@ -130,47 +129,55 @@ func (c compiler) target(at int) func(f *frame) (target, error) {
 }
 
 func (c compiler) set(n node) stat {
-	count := int(n.num)
-	var targets []func(f *frame) (target, error)
-	for _, kid := range n.kids[:count] {
-		targets = append(targets, c.target(kid))
-	}
-	assigned := c.assigned(count, n.kids[count:])
+	all := c.targets(n)
 	return func(f *frame) error {
-		defer f.hold()()
-		var places []target
-		for _, work := range targets {
-			place, way := work(f)
-			if way != nil {
-				return way
+		targets, way := all(f)
+		for i, t := range targets {
+			if way == nil {
+				way = f.assign(t, targets[i+1:])
 			}
-			f.held.push(place.held()...)
-			places = append(places, place)
 		}
-		values, way := assigned(f)
-		if way != nil {
-			return way
-		}
-		return f.assign(places, values)
+		return way
 	}
 }
 
-// assign gives targets their values. Only what the targets behind one need is held while that one gets its value.
-func (f *frame) assign(places []target, values []value) error {
-	height := f.held.height() - 2*len(places)
-	for i, place := range places {
-		f.held.cut(height)
-		for k := i + 1; k < len(places); k++ {
-			f.held.push(places[k].held()...)
-			f.held.push(nth(values, k))
-		}
-		if place.box != nil {
-			place.box.value = nth(values, i)
-		} else if way := f.task.set(place.of, place.k, nth(values, i)); way != nil {
-			return way
-		}
+// targets compiles what works out the targets of a set and their values.
+func (c compiler) targets(n node) func(f *frame) ([]target, error) {
+	var places []func(f *frame) (target, error)
+	for _, kid := range n.kids[:n.num] {
+		places = append(places, c.target(kid))
 	}
-	return nil
+	assigned := c.assigned(len(places), n.kids[n.num:])
+	return func(f *frame) ([]target, error) {
+		defer f.hold()()
+		var targets []target
+		for _, place := range places {
+			t, way := place(f)
+			if way != nil {
+				return nil, way
+			}
+			f.held.push(t.of, t.k)
+			targets = append(targets, t)
+		}
+		values, way := assigned(f)
+		for i := range targets {
+			targets[i].value = nth(values, i)
+		}
+		return targets, way
+	}
+}
+
+// assign gives a target its value. Of the set only what its later targets need is held meanwhile.
+func (f *frame) assign(t target, later []target) error {
+	defer f.hold()()
+	for _, other := range later {
+		f.held.push(other.of, other.k, other.value)
+	}
+	if t.box != nil {
+		t.box.value = t.value
+		return nil
+	}
+	return f.task.set(t.of, t.k, t.value)
 }
 
 func (c compiler) choice(n node) stat {
