@@ -127,7 +127,7 @@ func (t *table) follow(r *sight) {
 	}
 }
 
-// takeOut takes the pairs out of the tables that are reached that are held by nothing else.
+// takeOut takes those pairs out of the tables that hold weakly whose weak key or value is not reached.
 func (r *sight) takeOut() {
 	for _, t := range r.weak {
 		keys, values := t.weakly()
