@@ -13,6 +13,7 @@ type machine struct {
 	codes   []*code
 	in      Input
 	report  Report
+	hook    hook
 	read    int // how many of the Lines
 	tables  int // how many were made
 	tasks   int
@@ -25,6 +26,9 @@ type machine struct {
 	stopped sync.Once
 	ended   sync.WaitGroup
 }
+
+// hook is told the number of each record at the moment at which it is made. The run is over when it answers so.
+type hook func(number int) error
 
 // code is a fn of the unit, compiled.
 type code struct {
@@ -44,7 +48,7 @@ type closure struct {
 }
 
 func newMachine(u unit, in Input) *machine {
-	m := &machine{in: in, over: make(chan struct{})}
+	m := &machine{in: in, hook: unwatched, over: make(chan struct{})}
 	for number, f := range u.fns {
 		c := &code{unitFn: f, number: number}
 		c.body = compiler{m, f.nodes}.stat(len(f.nodes) - 1)
@@ -52,6 +56,9 @@ func newMachine(u unit, in Input) *machine {
 	}
 	return m
 }
+
+// unwatched is the hook of a run at which nobody looks.
+func unwatched(int) error { return nil }
 
 // run does the text as the first task, and waits until all goroutines of the others have ended.
 func (m *machine) run() Report {
@@ -103,7 +110,7 @@ func (m *machine) record(r Rec) error {
 		return wayOver
 	}
 	m.report.Recs = append(m.report.Recs, r)
-	return nil
+	return m.hook(len(m.report.Recs) - 1)
 }
 
 func (m *machine) newTask(fn value) *task {

@@ -416,7 +416,7 @@ func TestRunIsThatOfTheSecondMachine(t *testing.T) {
 		}
 		in := anyAllowance(rand.New(rand.NewSource(seed)))
 		got := runInTime(t, text, in)
-		want := run2(u, in)
+		want, _ := run2(u, in)
 		if !reflect.DeepEqual(got, want) {
 			for i := 0; i < len(got.Recs) && i < len(want.Recs); i++ {
 				if got.Recs[i] != want.Recs[i] {

@@ -1,6 +1,7 @@
 package impl
 
 import (
+	"slices"
 	"strconv"
 	"strings"
 )
@@ -80,6 +81,7 @@ type machine2 struct {
 	u       unit
 	in      Input
 	rep     Report
+	views   []View // at each record
 	cur     *task2
 	tasks   int
 	tables  []*table2
@@ -93,7 +95,8 @@ type machine2 struct {
 	leaving *way2
 }
 
-func run2(u unit, in Input) Report {
+// run2 is the report of a run, and what stands at each of its records.
+func run2(u unit, in Input) (Report, []View) {
 	m := &machine2{u: u, in: in, doing: -1}
 	for i := range u.fns {
 		m.scopes = append(m.scopes, map[int][]int{})
@@ -111,7 +114,7 @@ func run2(u unit, in Input) Report {
 	for !m.over {
 		m.step()
 	}
-	return m.rep
+	return m.rep, m.views
 }
 
 func numbers(n int) []int {
@@ -175,7 +178,36 @@ func (m *machine2) end(code int) { m.over, m.rep.Code = true, code }
 func (m *machine2) rec(r Rec) {
 	if !m.over {
 		m.rep.Recs = append(m.rep.Recs, r)
+		m.views = append(m.views, m.view())
 	}
+}
+
+// view is what stands now.
+func (m *machine2) view() View {
+	v := View{Ok: true, Task: m.cur.number}
+	for i := len(m.cur.calls) - 1; i >= 0; i-- {
+		c := m.cur.calls[i]
+		o := Open{Fn: c.code}
+		if c.at >= 0 {
+			o.Line = m.u.fns[c.code].nodes[c.at].line
+		}
+		in := m.inScope(c)
+		for number, name := range m.u.fns[c.code].vars {
+			if slices.Contains(in, number) {
+				o.Vars = append(o.Vars, Shown{name, textOf(c.vars[number].value)})
+			}
+		}
+		v.Calls = append(v.Calls, o)
+	}
+	return v
+}
+
+// inScope is what is in scope where a call stands.
+func (m *machine2) inScope(c *call2) []int {
+	if c.at < 0 {
+		return numbers(m.u.fns[c.code].params)
+	}
+	return m.scopes[c.code][c.at]
 }
 
 func (m *machine2) recHere(kind, line int, text string) {
@@ -1240,11 +1272,7 @@ func (m *machine2) followTask(t *task2, visit func(...value)) {
 		if c.fn != nil {
 			visit(value{kind: kFn, ref: c.fn})
 		}
-		in := numbers(m.u.fns[c.code].params)
-		if c.at >= 0 {
-			in = m.scopes[c.code][c.at]
-		}
-		for _, number := range in {
+		for _, number := range m.inScope(c) {
 			visit(c.vars[number].value)
 		}
 		visit(c.rest...)
