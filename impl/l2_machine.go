@@ -82,9 +82,9 @@ func (m *machine) conclude(way error) {
 	values, left := outcome(way)
 	switch {
 	case way == wayOver:
-		m.report.Code = 2
+		m.report.Code = endTicks
 	case left != nil:
-		m.report.Code = 1
+		m.report.Code = endError
 		m.report.Error = asTold(left.value)
 		m.report.Trace = left.trace
 	}
